@@ -61,6 +61,9 @@ func layers() [][]string {
 	return l
 }
 
+// packages: the layers', and those beside them that the program or its tests call.
+func packages() [][]string { return append(layers(), []string{"rows"}) }
+
 // library: the packages of Go's library that the program may use.
 func library() []string {
 	return []string{"bytes", "cmp", "container/heap", "errors", "iter", "maps", "math", "math/bits", "slices", "sort", "strconv", "strings", "sync", "sync/atomic", "unicode", "unicode/utf8"}
@@ -90,7 +93,7 @@ func sources(t *testing.T, name string) []string {
 
 // TestImports: each layer imports just those that the map says, and of the library what the language has.
 func TestImports(t *testing.T) {
-	for _, row := range layers() {
+	for _, row := range packages() {
 		for _, file := range sources(t, row[0]) {
 			tree, err := parser.ParseFile(token.NewFileSet(), file, nil, parser.ImportsOnly)
 			if err != nil {
@@ -112,7 +115,7 @@ func TestImports(t *testing.T) {
 
 // TestFunctionsAreShort: no function has too many lines; no remark is one for the compiler.
 func TestFunctionsAreShort(t *testing.T) {
-	for _, row := range layers() {
+	for _, row := range packages() {
 		for _, file := range sources(t, row[0]) {
 			set := token.NewFileSet()
 			tree, err := parser.ParseFile(set, file, nil, parser.ParseComments)

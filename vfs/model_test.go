@@ -6,24 +6,14 @@ import (
 	"testing"
 
 	"messuage/api"
+	"messuage/rows"
 	"messuage/vfs"
 )
 
-// numbers is a row of numbers that look like any.
-type numbers struct{ n uint64 }
+// numbers is a row of numbers, and what is made of them here.
+type numbers struct{ *rows.Row }
 
-// row: the same numbers at each run.
-func row(seed uint64) *numbers { return &numbers{seed*0x9e3779b97f4a7c15 + 1} }
-
-func (r *numbers) below(many int) int {
-	r.n ^= r.n << 13
-	r.n ^= r.n >> 7
-	r.n ^= r.n << 17
-	return int(r.n >> 11 % uint64(many))
-}
-
-// one: any of some texts.
-func (r *numbers) one(l ...string) string { return l[r.below(len(l))] }
+func row(seed uint64) *numbers { return &numbers{rows.New(seed)} }
 
 // tree is a node by the chapter's words: it hangs below its folder, and knows its own.
 type tree struct {
@@ -125,10 +115,10 @@ func wrong(nodes []api.Node) api.Errno {
 // way: some names of the few that these file systems have, and what is between them.
 func (r *numbers) way(most int) string {
 	p := ""
-	for range 1 + r.below(most) {
-		p += r.one("a", "b", "c", "a", "b", "..", ".") + r.one("/", "/", "/", "//", "/./")
+	for range 1 + r.Below(most) {
+		p += r.Text("a", "b", "c", "a", "b", "..", ".") + r.Text("/", "/", "/", "//", "/./")
 	}
-	if r.below(3) != 0 {
+	if r.Below(3) != 0 {
 		p = strings.TrimRight(p, "/")
 	}
 	return p
@@ -138,24 +128,24 @@ func (r *numbers) way(most int) string {
 func (r *numbers) node(nodes []api.Node, faults int) api.Node {
 	folders := []string{""}
 	for _, one := range nodes {
-		if one.Kind == api.Dir || r.below(faults) == 0 {
+		if one.Kind == api.Dir || r.Below(faults) == 0 {
 			folders = append(folders, one.Path)
 		}
 	}
-	node := api.Node{Path: r.one(folders...) + "/" + r.one("a", "b", "c", "d"), Kind: api.NodeKind(1 + r.below(3))}
+	node := api.Node{Path: r.Text(folders...) + "/" + r.Text("a", "b", "c", "d"), Kind: api.NodeKind(1 + r.Below(3))}
 	switch node.Kind {
 	case api.File:
-		node.Data = []byte(r.one("x", "yy", "zzz"))
+		node.Data = []byte(r.Text("x", "yy", "zzz"))
 	case api.Link:
-		node.To = r.one("", "", "/") + r.way(3)
+		node.To = r.Text("", "", "/") + r.way(3)
 	}
-	switch r.below(faults * 8) {
+	switch r.Below(faults * 8) {
 	case 0:
-		node.Path = r.one("", "/", "a", "/a/..", "/ ", "/x/", "//a")
+		node.Path = r.Text("", "/", "a", "/a/..", "/ ", "/x/", "//a")
 	case 1:
-		node.Kind = api.NodeKind(r.below(6) - 1)
+		node.Kind = api.NodeKind(r.Below(6) - 1)
 	case 2:
-		node.To += r.one(" ", "a")
+		node.To += r.Text(" ", "a")
 	case 3:
 		node.Data = []byte("a")
 	case 4:
@@ -167,15 +157,15 @@ func (r *numbers) node(nodes []api.Node, faults int) api.Node {
 // nodes: some of them, in any order; those of one path left away, but for faults.
 func (r *numbers) nodes(faults int) []api.Node {
 	var l []api.Node
-	for range r.below(24) {
+	for range r.Below(24) {
 		node := r.node(l, faults)
 		twice := slices.ContainsFunc(l, func(a api.Node) bool { return a.Path == node.Path })
-		if !twice || r.below(faults*8) == 0 {
+		if !twice || r.Below(faults*8) == 0 {
 			l = append(l, node)
 		}
 	}
 	for i := range l {
-		j := r.below(i + 1)
+		j := r.Below(i + 1)
 		l[i], l[j] = l[j], l[i]
 	}
 	return l

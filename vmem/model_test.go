@@ -7,37 +7,28 @@ import (
 	"testing"
 
 	"messuage/api"
+	"messuage/rows"
 	"messuage/vmem"
 )
 
-// numbers is a row of numbers that look like any.
-type numbers struct{ n uint64 }
+// numbers is a row of numbers, and what is made of them here.
+type numbers struct{ *rows.Row }
 
-// row: the same numbers at each run.
-func row(seed uint64) *numbers { return &numbers{seed*0x9e3779b97f4a7c15 + 1} }
-
-func (r *numbers) next() uint64 {
-	r.n ^= r.n << 13
-	r.n ^= r.n >> 7
-	r.n ^= r.n << 17
-	return r.n
-}
-
-func (r *numbers) below(many int) int { return int(r.next() >> 11 % uint64(many)) }
+func row(seed uint64) *numbers { return &numbers{rows.New(seed)} }
 
 // hint: often near the bottom or the top, so that rooms meet there.
 func (r *numbers) hint() uint64 {
-	switch r.below(6) {
+	switch r.Below(6) {
 	case 0:
 		return 0
 	case 1:
-		return r.next()
+		return r.Next()
 	case 2:
-		return top - uint64(r.below(20000))
+		return top - uint64(r.Below(20000))
 	case 3:
-		return math.MaxUint64 - uint64(r.below(20000))
+		return math.MaxUint64 - uint64(r.Below(20000))
 	}
-	return uint64(r.below(20000))
+	return uint64(r.Below(20000))
 }
 
 // model is a space by the chapter's words alone: pages by where they are, with no more cleverness than that.
@@ -221,40 +212,40 @@ func (m *model) state() state {
 
 // place: at or near a room's edges, or anywhere.
 func (r *numbers) place(regions []vmem.Region) uint64 {
-	if len(regions) == 0 || r.below(20) == 0 {
+	if len(regions) == 0 || r.Below(20) == 0 {
 		return r.hint()
 	}
-	one := regions[r.below(len(regions))]
-	at := one.At + uint64(r.below(one.Pages+1))*256
-	if r.below(3) == 0 {
-		at += uint64(r.below(520)) - 260
+	one := regions[r.Below(len(regions))]
+	at := one.At + uint64(r.Below(one.Pages+1))*256
+	if r.Below(3) == 0 {
+		at += uint64(r.Below(520)) - 260
 	}
 	return at
 }
 
 func (r *numbers) size() uint64 {
-	switch r.below(8) {
+	switch r.Below(8) {
 	case 0:
 		return 0
 	case 1:
-		return r.next()
+		return r.Next()
 	case 2:
-		return uint64(r.below(5)) * 256
+		return uint64(r.Below(5)) * 256
 	}
-	return uint64(r.below(1000))
+	return uint64(r.Below(1000))
 }
 
 func (r *numbers) prot() int {
-	if r.below(12) == 0 {
-		return r.below(40) - 20
+	if r.Below(12) == 0 {
+		return r.Below(40) - 20
 	}
-	return r.below(8) | r.below(2)*6 // more often both R and W than not
+	return r.Below(8) | r.Below(2)*6 // more often both R and W than not
 }
 
 func (r *numbers) data(most int) []byte {
-	b := make([]byte, r.below(most))
+	b := make([]byte, r.Below(most))
 	for i := range b {
-		b[i] = byte(r.next() >> 30)
+		b[i] = byte(r.Next() >> 30)
 	}
 	return b
 }
@@ -262,23 +253,23 @@ func (r *numbers) data(most int) []byte {
 // step: one call of the space and of the model; are their answers the same?
 func step(r *numbers, s *vmem.Space, m *model) (string, bool) {
 	at, size, p := r.place(s.Regions()), r.size(), r.prot()
-	switch r.below(10) {
+	switch r.Below(10) {
 	case 0, 1:
-		hint, pages := r.hint(), r.below(9)
-		if r.below(10) == 0 {
-			pages = r.below(70) - 2
+		hint, pages := r.hint(), r.Below(9)
+		if r.Below(10) == 0 {
+			pages = r.Below(70) - 2
 		}
 		got, e := s.Reserve(hint, pages)
 		want, wantErr := m.reserve(hint, pages)
 		return "Reserve", got == want && e == wantErr
 	case 2:
-		if r.below(2) == 0 {
+		if r.Below(2) == 0 {
 			return "Release", s.Release(at) == m.release(at)
 		}
 		fallthrough
 	case 3, 4:
 		data := r.data(300)
-		if r.below(4) != 0 {
+		if r.Below(4) != 0 {
 			size = max(size, uint64(len(data)))
 		}
 		return "Map", s.Map(at, size, p, data) == m.doMap(at, size, p, data)
@@ -300,7 +291,7 @@ func step(r *numbers, s *vmem.Space, m *model) (string, bool) {
 		}
 		return "Load", got == want && e == wantErr
 	}
-	n, data := r.next(), []byte{}
+	n, data := r.Next(), []byte{}
 	for i := range 8 {
 		data = append(data, byte(n>>(8*i)))
 	}
@@ -311,10 +302,10 @@ func step(r *numbers, s *vmem.Space, m *model) (string, bool) {
 func TestAgainstModel(t *testing.T) {
 	for seed := range uint64(60) {
 		r := row(seed)
-		budget := 1 + r.below(40)
+		budget := 1 + r.Below(40)
 		s, m := space(t, budget), newModel(budget)
 		for i := range 250 {
-			if r.below(15) == 0 {
+			if r.Below(15) == 0 {
 				old := s
 				s = s.Copy()
 				old.Write(r.place(s.Regions()), r.data(600))
@@ -339,12 +330,12 @@ type told struct {
 
 // call: any call of what is in the room that begins there, with places counted from there.
 func call(r *numbers, s *vmem.Space, begin uint64, pages int) told {
-	off, size, p, data, n := 256*r.below(pages), uint64(r.below(500)), r.prot(), r.data(300), r.next()
-	kind := r.below(14)
-	if r.below(3) == 0 {
-		off += r.below(256)
+	off, size, p, data, n := 256*r.Below(pages), uint64(r.Below(500)), r.prot(), r.data(300), r.Next()
+	kind := r.Below(14)
+	if r.Below(3) == 0 {
+		off += r.Below(256)
 	}
-	if kind < 10 && r.below(8) == 0 { // at the end another room may begin, but no bytes are told from this one
+	if kind < 10 && r.Below(8) == 0 { // at the end another room may begin, but no bytes are told from this one
 		off, size, data = 256*pages, 0, nil
 	}
 	at := begin + uint64(off)
@@ -369,13 +360,13 @@ func call(r *numbers, s *vmem.Space, begin uint64, pages int) told {
 func play(t *testing.T, seed uint64, hints func(r *numbers) uint64) []told {
 	t.Helper()
 	r, places := row(seed), row(seed+1000)
-	s := space(t, 1+r.below(24))
+	s := space(t, 1+r.Below(24))
 	var rooms []vmem.Region // in the order in which they came
 	var all []told
 	for range 200 {
-		kind, pages, which := r.below(20), 1+r.below(6), 0
+		kind, pages, which := r.Below(20), 1+r.Below(6), 0
 		if len(rooms) > 0 {
-			which = r.below(len(rooms))
+			which = r.Below(len(rooms))
 		}
 		switch {
 		case kind < 3 || len(rooms) == 0:
@@ -383,7 +374,7 @@ func play(t *testing.T, seed uint64, hints func(r *numbers) uint64) []told {
 			if e == api.OK {
 				rooms = append(rooms, vmem.Region{At: at, Pages: pages})
 			}
-			if e == api.OK && r.below(2) == 0 { // or few of the bytes would be there
+			if e == api.OK && r.Below(2) == 0 { // or few of the bytes would be there
 				e = s.Map(at, uint64(pages)*256, 6, r.data(256))
 			}
 			all = append(all, told{e: e, n: uint64(s.Used())})
@@ -401,9 +392,9 @@ func play(t *testing.T, seed uint64, hints func(r *numbers) uint64) []told {
 func TestHintsTurnNothingElse(t *testing.T) {
 	sideBySide := func(*numbers) uint64 { return 0 }
 	ways := map[string]func(r *numbers) uint64{
-		"far apart":  (*numbers).next,
+		"far apart":  (*numbers).Next,
 		"near":       (*numbers).hint,
-		"at the top": func(r *numbers) uint64 { return top - uint64(r.below(2000)) },
+		"at the top": func(r *numbers) uint64 { return top - uint64(r.Below(2000)) },
 		"the last":   func(*numbers) uint64 { return math.MaxUint64 },
 	}
 	good := 0

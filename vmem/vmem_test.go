@@ -850,10 +850,10 @@ func TestRoomsLieApart(t *testing.T) {
 	for range 30 {
 		s := space(t, 1024)
 		for range 300 {
-			if regions := s.Regions(); len(regions) > 0 && r.below(4) == 0 {
-				checkRelease(t, s, regions[r.below(len(regions))].At, api.OK)
+			if regions := s.Regions(); len(regions) > 0 && r.Below(4) == 0 {
+				checkRelease(t, s, regions[r.Below(len(regions))].At, api.OK)
 			}
-			_, e := s.Reserve(r.hint(), 1+r.below(64))
+			_, e := s.Reserve(r.hint(), 1+r.Below(64))
 			if e != api.OK && e != api.ErrBudget {
 				t.Fatal(e)
 			}
