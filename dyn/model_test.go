@@ -11,6 +11,7 @@ import (
 	"messuage/api"
 	"messuage/dyn"
 	"messuage/head"
+	"messuage/mold"
 	"messuage/rows"
 )
 
@@ -23,46 +24,6 @@ var table = []uint64{
 // couples: the chapter's pairs.
 var couples = [][2]uint64{{5, 10}, {17, 18}, {7, 8}, {23, 2}, {36, 35}, {0x6000000f, 0x60000010}, {0x60000011, 0x60000012}, {25, 27}, {26, 28}, {0x6ffffffc, 0x6ffffffd}, {0x6ffffffe, 0x6fffffff}}
 
-// cell is a byte of a library's memory that stands in its file, and which part it is of.
-type cell struct {
-	value byte
-	part  int
-}
-
-// model is a library's memory by the chapters' words, byte by byte.
-type model struct {
-	h     api.Heads
-	cells map[uint64]cell
-}
-
-func newModel(b []byte, h api.Heads) model {
-	m := model{h, map[uint64]cell{}}
-	for i, p := range h.Loads {
-		for n := range p.Filesz {
-			m.cells[p.Vaddr+n] = cell{b[p.Off+n], i}
-		}
-	}
-	return m
-}
-
-// row: so many bytes of one part's of the file.
-func (m model) row(at, size uint64) (string, bool) {
-	if size == 0 {
-		return "", slices.ContainsFunc(m.h.Loads, func(p api.Phdr) bool { return at >= p.Vaddr && at <= p.Vaddr+p.Filesz })
-	}
-	first, ok := m.cells[at]
-	var row []byte
-	for i := uint64(0); ok && i < size; i++ {
-		c, is := m.cells[at+i]
-		ok = is && c.part == first.part
-		row = append(row, c.value)
-	}
-	if !ok {
-		return "", false
-	}
-	return string(row), true
-}
-
 // list: the entries of a section by the chapter's words.
 func list(s string) ([]dyn.Entry, api.Errno) {
 	var l []dyn.Entry
@@ -74,16 +35,6 @@ func list(s string) ([]dyn.Entry, api.Errno) {
 		l, s = append(l, x), s[16:]
 	}
 	return nil, api.ErrTags
-}
-
-// text: what stands at a place among strings; false: that is no text.
-func text(s string, at uint64) (string, bool) {
-	if at >= uint64(len(s)) {
-		return "", false
-	}
-	name, _, ended := strings.Cut(s[at:], "\x00")
-	outside := strings.IndexFunc(name, func(c rune) bool { return c < 33 || c > 126 })
-	return name, ended && outside < 0 && len(name) <= 64
 }
 
 // section is a section's entries.
@@ -164,9 +115,9 @@ func (l section) says() api.Dyn {
 }
 
 // read: what a library's dynamic section says by the chapter's words.
-func read(m model) (api.Dyn, api.Errno) {
+func read(m *mold.Memory, h api.Heads) (api.Dyn, api.Errno) {
 	none := api.Dyn{}
-	bytes, ok := m.row(m.h.Dynamic.Vaddr, m.h.Dynamic.Filesz)
+	bytes, ok := m.Row(h.Dynamic.Vaddr, h.Dynamic.Filesz)
 	if !ok {
 		return none, api.ErrDynamic
 	}
@@ -176,7 +127,7 @@ func read(m model) (api.Dyn, api.Errno) {
 		return none, api.ErrTags
 	}
 	d := l.says()
-	texts, ok := m.row(d.Strings.At, d.Strings.Size)
+	texts, ok := m.Row(d.Strings.At, d.Strings.Size)
 	if !ok {
 		return none, api.ErrStrtab
 	}
@@ -184,7 +135,7 @@ func read(m model) (api.Dyn, api.Errno) {
 		if !l.has(tag) {
 			continue
 		}
-		if *to, ok = text(texts, l.one(tag)); !ok {
+		if *to, ok = mold.Text(texts, l.one(tag)); !ok {
 			return none, api.ErrStrtab
 		}
 	}
@@ -192,7 +143,7 @@ func read(m model) (api.Dyn, api.Errno) {
 		return none, api.ErrNeeded
 	}
 	for _, at := range l.values(1) {
-		name, ok := text(texts, at)
+		name, ok := mold.Text(texts, at)
 		if !ok {
 			return none, api.ErrStrtab
 		}
@@ -339,14 +290,14 @@ func TestModel(t *testing.T) {
 		if e != api.OK {
 			t.Fatalf("row %d: %v", seed, e)
 		}
-		m := newModel(b, h)
-		want, wantErr := read(m)
+		m := mold.Read(b, h.Loads)
+		want, wantErr := read(m, h)
 		d, e := dyn.Parse(b, h)
 		if e != wantErr || !same(d, want) {
 			t.Fatalf("row %d:\n%+v, %v, not\n%+v, %v", seed, d, e, want, wantErr)
 		}
 		met[e]++
-		s, _ := m.row(h.Dynamic.Vaddr, h.Dynamic.Filesz)
+		s, _ := m.Row(h.Dynamic.Vaddr, h.Dynamic.Filesz)
 		wantList, wantErr := list(s)
 		if l, e := dyn.Entries([]byte(s)); e != wantErr || !slices.Equal(l, wantList) {
 			t.Fatalf("row %d: Entries: %v, %v, not %v, %v", seed, l, e, wantList, wantErr)
@@ -354,7 +305,7 @@ func TestModel(t *testing.T) {
 		if e != api.OK {
 			d = api.Dyn{Strings: api.Area{Has: true, At: row(seed).value(), Size: uint64(seed % 300)}}
 		}
-		wantStrings, wantOK := m.row(d.Strings.At, d.Strings.Size)
+		wantStrings, wantOK := m.Row(d.Strings.At, d.Strings.Size)
 		if got, ok := dyn.Strings(b, h, d); ok != wantOK || string(got) != wantStrings {
 			t.Fatalf("row %d: Strings of %v: %q, %v, not %q, %v", seed, d.Strings, got, ok, wantStrings, wantOK)
 		}
@@ -364,28 +315,6 @@ func TestModel(t *testing.T) {
 			t.Errorf("%v was met just %d times", e, met[e])
 		}
 	}
-}
-
-// sections: the file with a table of sections behind it, which other readers ask for.
-func sections(b []byte, h api.Heads, strings int) []byte {
-	b = slices.Clone(b)
-	place := len(b)
-	binary.LittleEndian.PutUint64(b[40:], uint64(place))
-	for at, n := range map[int]uint16{58: 64, 60: 3, 62: 2} {
-		binary.LittleEndian.PutUint16(b[at:], n)
-	}
-	b[20] = 1
-	b = append(b, make([]byte, 3*64)...)
-	one := func(i int, kind uint32, off, size uint64, link uint32) {
-		row := b[place+64*i:]
-		binary.LittleEndian.PutUint32(row[4:], kind)
-		binary.LittleEndian.PutUint64(row[24:], off)
-		binary.LittleEndian.PutUint64(row[32:], size)
-		binary.LittleEndian.PutUint32(row[40:], link)
-	}
-	one(1, 6, 1040, h.Dynamic.Filesz, 2)
-	one(2, 3, 528, uint64(strings), 0)
-	return b
 }
 
 // P9.2: right libraries, held against another reader of ELF files.
@@ -403,7 +332,8 @@ func TestOtherReader(t *testing.T) {
 		if e != api.OK {
 			t.Fatalf("row %d: %v", seed, e)
 		}
-		f, err := elf.NewFile(bytes.NewReader(sections(b, h, len(s))))
+		listed := mold.Listed(b, mold.Section{Kind: 6, Link: 2, Off: 1040, Size: h.Dynamic.Filesz}, mold.Section{Kind: 3, Off: 528, Size: uint64(len(s))})
+		f, err := elf.NewFile(bytes.NewReader(listed))
 		if err != nil {
 			t.Fatal(err)
 		}

@@ -62,7 +62,7 @@ func layers() [][]string {
 }
 
 // packages: the layers', and those beside them that the program or its tests call.
-func packages() [][]string { return append(layers(), []string{"rows"}) }
+func packages() [][]string { return append(layers(), []string{"rows"}, []string{"mold", "api"}) }
 
 // library: the packages of Go's library that the program may use.
 func library() []string {
