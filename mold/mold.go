@@ -20,18 +20,19 @@ const (
 	fill = 0xee // where no part stands in the file
 )
 
-// Lib is a library that is to be laid down: its memory, its parts (where they stand in the file is told by File), where its dynamic section is, and the values of its tags.
+// Lib is a library that is to be laid down: its memory, its parts (where they stand in the file is told by File), where its dynamic section is, the values of its tags, and what other program headers it has.
 type Lib struct {
 	Machine uint16
 	Image   []byte
 	Loads   []api.Phdr
 	Dynamic uint64
 	Tags    map[uint64]uint64
+	Others  []api.Phdr
 }
 
 // New: a library of these parts whose memory is all 0.
 func New(dynamic uint64, loads ...api.Phdr) *Lib {
-	return &Lib{api.Intel, make([]byte, memorySize), loads, dynamic, map[uint64]uint64{}}
+	return &Lib{Machine: api.Intel, Image: make([]byte, memorySize), Loads: loads, Dynamic: dynamic, Tags: map[uint64]uint64{}}
 }
 
 // Put: lays down numbers of so many bytes each.
@@ -63,7 +64,7 @@ func (x *Lib) File() []byte {
 	section := x.section()
 	copy(image[x.Dynamic:], section)
 	loads, end := x.placed()
-	heads := append(loads, api.Phdr{Type: api.PtDynamic, Vaddr: x.Dynamic, Filesz: uint64(len(section))})
+	heads := slices.Concat(loads, []api.Phdr{{Type: api.PtDynamic, Vaddr: x.Dynamic, Filesz: uint64(len(section))}}, x.Others)
 	copy(image, "\x7fELF\x02\x01\x01")
 	for _, p := range [][2]int{{16, 3}, {18, int(x.Machine)}, {32, headSize}, {52, headSize}, {54, oneSize}, {56, len(heads)}} {
 		put(image, p[0], 2, uint64(p[1]))

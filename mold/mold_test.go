@@ -68,6 +68,22 @@ func TestFile(t *testing.T) {
 	}
 }
 
+// Other program headers stand behind those, as they are.
+func TestOthers(t *testing.T) {
+	x := three()
+	x.Others = []api.Phdr{{Type: api.PtRelro, Flags: 4, Off: 1, Vaddr: 512, Filesz: 2, Memsz: 256}, {Type: 7, Vaddr: 3}}
+	f, err := elf.NewFile(bytes.NewReader(mold.Listed(x.File(), mold.Section{Kind: 3, Off: 520, Size: 4})))
+	if err != nil || len(f.Progs) != 6 {
+		t.Fatal(f, err)
+	}
+	if p := f.Progs[4].ProgHeader; p != (elf.ProgHeader{Type: elf.PT_GNU_RELRO, Flags: 4, Off: 1, Vaddr: 512, Filesz: 2, Memsz: 256}) {
+		t.Errorf("%+v", p)
+	}
+	if p := f.Progs[5].ProgHeader; p != (elf.ProgHeader{Type: elf.PT_TLS, Vaddr: 3}) {
+		t.Errorf("%+v", p)
+	}
+}
+
 // What of the memory stands in the file, part by part.
 func TestMemory(t *testing.T) {
 	x := three()
